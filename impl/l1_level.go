@@ -201,27 +201,32 @@ func paramNameOk(name string) bool {
 	return ShortOk(name) && name != "max" && name != "imax"
 }
 
+// joinKids goes along a list of nodes that should stand kids first. It is given
+// the roots, from the left, of the stretches that have no parent yet, a place,
+// and the kids of the node there with how many it should have, below 0 for what
+// is no node; it gives the roots with this node among them, or false.
+func joinKids(roots []int, place int, kids []int, want int) ([]int, bool) {
+	first := len(roots) - want
+	if want < 0 || first < 0 || !slices.Equal(kids, roots[first:]) {
+		return nil, false
+	}
+	return append(roots[:first], place), true
+}
+
 // LevelOk says whether a level is valid.
 func LevelOk(l Level) bool {
-	if len(l.Nodes) == 0 || len(l.Nodes) > MaxLevel {
+	if len(l.Nodes) > MaxLevel {
 		return false
 	}
-	// The roots, from the left, of the stretches that have no parent yet.
-	var roots [MaxLevel]int
-	count := 0
+	ok := true
+	roots := make([]int, 0, MaxLevel)
 	for i, node := range l.Nodes {
-		want := levelKids(node.K)
-		if want < 0 || want > count || !levelFieldsOk(node) {
+		roots, ok = joinKids(roots, i, node.Kids, levelKids(node.K))
+		if !ok || !levelFieldsOk(node) {
 			return false
 		}
-		if !slices.Equal(node.Kids, roots[count-want:count]) {
-			return false
-		}
-		count -= want
-		roots[count] = i
-		count++
 	}
-	return count == 1 && fewParams(l)
+	return len(roots) == 1 && fewParams(l)
 }
 
 // levelKids is the number of kids of a node of a kind, -1 for no kind.
@@ -651,14 +656,27 @@ func LevelSign(l Level) int {
 
 // LevelPut puts levels for parameters; it gives the level and a code.
 func LevelPut(l Level, names []string, levels []Level) (Level, int) {
-	if !LevelOk(l) || len(names) != len(levels) {
+	if !LevelOk(l) || !namedLevelsOk(names, levels) {
 		return Level{}, CodeInput
+	}
+	return putNamedLevels(l, names, levels)
+}
+
+func namedLevelsOk(names []string, levels []Level) bool {
+	if len(names) != len(levels) {
+		return false
 	}
 	for _, level := range levels {
 		if !LevelOk(level) {
-			return Level{}, CodeInput
+			return false
 		}
 	}
+	return true
+}
+
+// putNamedLevels is for what has been found valid, so that a term with many
+// levels asks only once.
+func putNamedLevels(l Level, names []string, levels []Level) (Level, int) {
 	return sizedLevel(putLevels(levelTreeOf(l), func(x paramLevel) levelTree {
 		if i := slices.Index(names, x.name); i >= 0 {
 			return levelTreeOf(levels[i])
