@@ -393,7 +393,7 @@ func readLevel(in levelReader) (levelTree, bool) {
 	tree, ok := readLevelBase(in)
 	for ok && in.take('+') {
 		var times int
-		times, ok = levelNumber(in.span(isDigit))
+		times, ok = decimal(in.span(isDigit), mostDigits)
 		tree = succAround(tree, times)
 	}
 	return tree, ok
@@ -401,7 +401,7 @@ func readLevel(in levelReader) (levelTree, bool) {
 
 func readLevelBase(in levelReader) (levelTree, bool) {
 	if digits := in.span(isDigit); digits != "" {
-		times, ok := levelNumber(digits)
+		times, ok := decimal(digits, mostDigits)
 		return succAround(zeroLevel{}, times), ok
 	}
 	name := in.span(goesOnName)
@@ -428,14 +428,17 @@ func readLevelPair(in levelReader) (levelTree, levelTree, bool) {
 	return a, b, ok && in.take(')')
 }
 
-// levelNumber is 0 and false for what has too few or too many digits.
-func levelNumber(digits string) (int, bool) {
-	if len(digits) < leastDigits || len(digits) > mostDigits {
+// decimal is 0 and false for what is no number of one digit up to so many.
+func decimal(text string, longest int) (int, bool) {
+	if len(text) < leastDigits || len(text) > longest {
 		return 0, false
 	}
 	n := 0
-	for i := range len(digits) {
-		n = 10*n + int(digits[i]-'0')
+	for i := range len(text) {
+		if !isDigit(text[i]) {
+			return 0, false
+		}
+		n = 10*n + int(text[i]-'0')
 	}
 	return n, true
 }
