@@ -153,11 +153,23 @@ func treeOf(t impl.Term) tree {
 }
 
 func (x tree) term() impl.Term {
-	var kids []impl.Term
-	for _, kid := range x.kids {
-		kids = append(kids, kid.term())
+	var nodes []impl.Node
+	var add func(x tree) int
+	add = func(x tree) int {
+		node := x.node
+		node.Kids = nil
+		for _, kid := range x.kids {
+			node.Kids = append(node.Kids, add(kid))
+		}
+		node.Levels = slices.Clone(node.Levels)
+		for i := range node.Levels {
+			node.Levels[i] = copyLevel(node.Levels[i])
+		}
+		nodes = append(nodes, node)
+		return len(nodes) - 1
 	}
-	return join(x.node, kids...)
+	add(x)
+	return impl.Term{Nodes: nodes}
 }
 
 // inside is how many binders of x stand around its kid, beside those around x.

@@ -12,30 +12,45 @@ import (
 
 // text follows the table of the document.
 func (x tree) text() string {
+	var text strings.Builder
+	x.writeTo(&text)
+	return text.String()
+}
+
+func (x tree) writeTo(text *strings.Builder) {
 	n := x.node
-	var parts []string
 	switch n.K {
 	case impl.TermVar:
-		return "#" + strconv.Itoa(n.N)
+		text.WriteString("#" + strconv.Itoa(n.N))
+		return
 	case impl.TermHole:
-		return "?" + strconv.Itoa(n.N)
+		text.WriteString("?" + strconv.Itoa(n.N))
+		return
 	case impl.TermSort:
-		return "*" + impl.LevelText(n.Levels[0])
+		text.WriteString("*" + impl.LevelText(n.Levels[0]))
+		return
 	case impl.TermConst:
-		return n.S + levelList(n.Levels)
+		text.WriteString(n.S + levelList(n.Levels))
+		return
+	}
+	text.WriteString("[")
+	switch n.K {
 	case impl.TermLam:
-		parts = []string{"^", n.S, strconv.Itoa(n.M)}
+		text.WriteString("^ " + n.S + " " + strconv.Itoa(n.M) + " ")
 	case impl.TermPi:
-		parts = []string{"!", n.S, strconv.Itoa(n.M)}
+		text.WriteString("! " + n.S + " " + strconv.Itoa(n.M) + " ")
 	case impl.TermLet:
-		parts = []string{"=", n.S}
+		text.WriteString("= " + n.S + " ")
 	case impl.TermProj:
-		parts = []string{".", n.S, strconv.Itoa(n.N)}
+		text.WriteString(". " + n.S + " " + strconv.Itoa(n.N) + " ")
 	}
-	for _, kid := range x.kids {
-		parts = append(parts, kid.text())
+	for i, kid := range x.kids {
+		if i > 0 {
+			text.WriteString(" ")
+		}
+		kid.writeTo(text)
 	}
-	return "[" + strings.Join(parts, " ") + "]"
+	text.WriteString("]")
 }
 
 func levelList(levels []impl.Level) string {
