@@ -197,11 +197,15 @@ func (x tree) size() int {
 	return size
 }
 
-// slowMeter counts the steps of the slow way. A code ends it.
+// slowMeter counts the steps of the slow way. A code ends it. It is exact when it
+// goes up to the limits of terms, however long that takes; most is then the size
+// of the greatest tree that was made.
 type slowMeter struct {
 	*slowSteps
-	fuel int
-	work int
+	fuel  int
+	work  int
+	exact bool
+	most  int
 }
 
 // slowEnd is what the slow way panics with when a code ends it.
@@ -226,10 +230,33 @@ func (w *slowMeter) whnf(x tree, deep bool) tree {
 			panic(slowEnd{impl.CodeFuel})
 		}
 		w.work++
-		if x = y; x.size() > slowRoom {
-			panic(slowEnd{slowLost})
-		}
+		x = w.fits(y)
 	}
+}
+
+// fits is for trees that were made just now.
+func (w *slowMeter) fits(x tree) tree {
+	size := x.size()
+	w.most = max(w.most, size)
+	switch {
+	case w.exact && (size > impl.MaxNodes || x.greatest() > impl.MaxNodes):
+		panic(slowEnd{impl.CodeSize})
+	case !w.exact && size > slowRoom:
+		panic(slowEnd{slowLost})
+	}
+	return x
+}
+
+// greatest is the greatest number of a variable, as it stands there.
+func (x tree) greatest() int {
+	number := 0
+	if x.node.K == impl.TermVar {
+		number = x.node.N
+	}
+	for _, kid := range x.kids {
+		number = max(number, kid.greatest())
+	}
+	return number
 }
 
 func (w *slowMeter) normal(x tree) tree {
@@ -250,7 +277,7 @@ func (w *slowMeter) normal(x tree) tree {
 
 // slowly gives what is made of a tree, with the work and the code.
 func (w *slowSteps) slowly(fuel int, do func(m *slowMeter) tree) (x tree, work, code int) {
-	m := &slowMeter{w, fuel, 0}
+	m := &slowMeter{slowSteps: w, fuel: fuel}
 	defer func() {
 		if met := recover(); met != nil {
 			x, work, code = tree{}, m.work, met.(slowEnd).code

@@ -48,9 +48,14 @@ func stepSize(w *slowSteps, x impl.Term) int {
 // padded has a term of so many nodes at each @ of a text, and one of 5001 nodes
 // at each $.
 func padded(text string) func(pad int) impl.Term {
+	return paddedWith(text, 5001)
+}
+
+// paddedWith has a term of another number of nodes at each $.
+func paddedWith(text string, much int) func(pad int) impl.Term {
 	return func(pad int) impl.Term {
 		x := treeOf(read(strings.NewReplacer("@", "Pad", "$", "Much").Replace(text)))
-		filling := map[string]tree{"Pad": treeOf(sized(pad)), "Much": treeOf(sized(5001))}
+		filling := map[string]tree{"Pad": treeOf(sized(pad)), "Much": treeOf(sized(much))}
 		return x.changed(0, func(x tree, _ int) tree {
 			if f, ok := filling[x.node.S]; ok {
 				return f
@@ -151,6 +156,11 @@ func TestStepsToOtherLimits(t *testing.T) {
 		{app(read("[^ x 0 Nat [^ y 0 Nat [^ z 0 Nat #2]]]"), far(1)), 0},
 		{app(read("[^ x 0 Nat [^ y 0 Nat [^ z 0 Nat #1]]]"), far(0)), 0},
 		{let("x", prop(), far(0), read("[! y 0 Nat [= z Nat Nat #2]]")), impl.CodeSize},
+		// several places, the deepest one first, and variables within what is put
+		{app(read("[^ x 0 Nat [[^ y 0 Nat [^ z 0 Nat #2]] #0]]"), far(0)), impl.CodeSize},
+		{app(read("[^ x 0 Nat [[^ y 0 Nat [^ z 0 Nat #2]] #0]]"), far(1)), 0},
+		{app(read("[^ x 0 Nat [^ y 0 Nat [^ z 0 Nat [^ w 0 Nat #3]]]]"), lam("a", 0, prop(), lam("b", 0, prop(), far(1)))), impl.CodeSize},
+		{app(read("[^ x 0 Nat [^ y 0 Nat [^ z 0 Nat [^ w 0 Nat #3]]]]"), lam("a", 0, prop(), lam("b", 0, prop(), far(2)))), 0},
 		{node(far(1), v, v, v, v, v, zero()), 0},
 		{node(far(0), v, v, v, v, v, zero()), impl.CodeSize},
 		// the parameter stands under one binder, the index under two, fields under their own

@@ -206,3 +206,31 @@ func TestWhnfWithoutEnd(t *testing.T) {
 	holdWhnf(t, e, read(text), true, work, "", work, impl.CodeSize)
 	holdWhnf(t, e, read(text), true, work-1, "", work-1, impl.CodeFuel)
 }
+
+// Functions of many arguments, and many TermLets, are soon through.
+func TestWhnfOfLongTerms(t *testing.T) {
+	const count = 2500
+	e := stepEnv()
+	body, want := constant("some"), constant("some")
+	for i := range count {
+		to := func(x impl.Term, n int) impl.Term {
+			return impl.Term{Nodes: append(x.Nodes, impl.Node{K: impl.TermVar, N: n}, impl.Node{K: impl.TermApp, Kids: []int{len(x.Nodes) - 1, len(x.Nodes)}})}
+		}
+		body, want = to(body, count-1-i), to(want, i)
+	}
+	f := lams(count, func(depth int) impl.Term { return constant("Nat") }, body)
+	var args []impl.Term
+	for i := range count {
+		args = append(args, variable(i))
+	}
+	x, _ := impl.Apply(f, args)
+	holdWhnf(t, e, x, true, count, written(want), count, 0)
+	holdWhnf(t, e, x, true, count-1, "", count-1, impl.CodeFuel)
+	holdNormal(t, e, x, impl.MaxFuel, written(want), count, 0)
+
+	lets := wrapLets(count, constant("Nat"), variable(7), body)
+	got, work, code := impl.Whnf(e, lets, false, count)
+	if code != 0 || work != count || len(got.Nodes) != 2*count+1 || treeOf(got).numbers()[7] != count {
+		t.Errorf("many TermLets: work %d, code %d, %d nodes", work, code, len(got.Nodes))
+	}
+}
