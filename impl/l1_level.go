@@ -640,6 +640,60 @@ func sumsLeq(a levelSums, b levelSums) bool {
 	return a.least <= b.least
 }
 
+// levelMeaning is a text that valid levels have in common just where they are the
+// same: the parameters that the number hangs on, and its sums in each case of
+// which of these are 0.
+func levelMeaning(l Level) string {
+	tree, names := levelTreeOf(l), levelParams(l)
+	slices.Sort(names)
+	cases := allSums(tree, names)
+	var used []string
+	for i, name := range names {
+		if hangsOn(cases, i) {
+			used = append(used, name)
+		}
+	}
+	var text strings.Builder
+	for _, name := range used {
+		text.WriteString(name + " ")
+	}
+	for _, sums := range allSums(tree, used) {
+		text.WriteString(strconv.Itoa(sums.least) + " ")
+		for _, top := range sums.tops[:len(used)] {
+			text.WriteString(strconv.Itoa(top) + " ")
+		}
+	}
+	return text.String()
+}
+
+// allSums are a level's sums in each case of which of the named parameters are
+// positive: those whose bits the place of the case has.
+func allSums(t levelTree, names []string) []levelSums {
+	var list []levelSums
+	for bits := range 1 << len(names) {
+		one := levelCase{names: names}
+		for i := range names {
+			one.values[i] = valueZero
+			if bits>>i&1 == 1 {
+				one.values[i] = valuePositive
+			}
+		}
+		list = append(list, one.sums(t))
+	}
+	return list
+}
+
+// hangsOn says whether it makes a difference in some case that a parameter is
+// positive.
+func hangsOn(cases []levelSums, param int) bool {
+	for bits, sums := range cases {
+		if sums != cases[bits|1<<param] {
+			return true
+		}
+	}
+	return false
+}
+
 // LevelSign says for which values a level's number is 0.
 func LevelSign(l Level) int {
 	if !LevelOk(l) {
