@@ -38,6 +38,7 @@ func holdRefusedEverywhere(t *testing.T, what string, e impl.Env, ctx []impl.Ter
 }
 
 func TestCheckingOfWrongTerms(t *testing.T) {
+	t.Parallel()
 	e, ctx := convEnv(), convContext()
 	for _, text := range []string{
 		"#12", "#13", "#20000", "[^ x 0 Nat #13]", "[! x 0 #12 #0]", "[= x Nat two #13]", "[= x Nat #12 #0]", "[= x #12 two #0]", "[two #12]", "[. Prod 0 #12]",
@@ -60,6 +61,7 @@ func TestCheckingOfWrongTerms(t *testing.T) {
 }
 
 func TestCheckingInWrongContexts(t *testing.T) {
+	t.Parallel()
 	e := convEnv()
 	for _, texts := range [][]string{{"#0"}, {"*1", "#1"}, {"nothing"}, {"*1", "two{0}", "*1"}, {"[. Prod 2 Nat]"}, {"two", "?0", "nothing"}, {"*1", "#0", "[! x 0 #1 #3]"}} {
 		holdRefusedEverywhere(t, texts[0], e, contextOf(texts...))

@@ -101,6 +101,7 @@ func (q checkAsk) holdSecond(t *testing.T, w *slowSteps) bool {
 }
 
 func TestSecondChecker(t *testing.T) {
+	t.Parallel()
 	e, ctx := convEnv(), convContext()
 	w := slowStepsIn(e)
 	for _, text := range []string{

@@ -147,6 +147,7 @@ func TestCheckingMadeTerms(t *testing.T) {
 
 // Contexts, terms and names with a mistake.
 func TestCheckingOfAnyInput(t *testing.T) {
+	t.Parallel()
 	r := rand.New(rand.NewSource(104))
 	counts := checkCounts{}
 	refused := 0

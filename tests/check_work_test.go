@@ -154,6 +154,7 @@ func TestInferWithMuchWork(t *testing.T) {
 // With another code the work is what was counted until then, and more fuel
 // changes nothing: promise 11.
 func TestCheckingWithMoreFuel(t *testing.T) {
+	t.Parallel()
 	e, ctx := convEnv(), convContext()
 	for _, text := range []string{
 		"[[add [slow two]] [[slow two] ?0]]", "[[add [slow two]] [slow #5]]", "[= x Nat [slow two] [#0 #0]]", "[[by one] [[Eq.refl{1} Nat] four]]",
@@ -177,6 +178,7 @@ func TestCheckingWithMoreFuel(t *testing.T) {
 
 // Long terms are soon through.
 func TestInferLongTerms(t *testing.T) {
+	t.Parallel()
 	e := convEnv()
 	nat := constant("Nat")
 	const count = 3000

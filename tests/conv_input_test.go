@@ -22,6 +22,7 @@ func holdRefusedTerm(t *testing.T, what string, e impl.Env, ctx []impl.Term, x i
 }
 
 func TestConvOfWrongInput(t *testing.T) {
+	t.Parallel()
 	e, ctx := convEnv(), convContext()
 	for _, text := range []string{
 		"#12", "#13", "#20000", "[^ x 0 Nat #13]", "[! x 0 #12 #0]", "[= x Nat two #13]", "[two #12]", "[. Prod 0 #12]",

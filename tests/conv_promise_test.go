@@ -218,6 +218,7 @@ func TestConvIsAnEquivalence(t *testing.T) {
 // Terms in a context, those of a row being of one type; what stands together in
 // a group is the same, and the groups are not.
 func TestConvOfGroups(t *testing.T) {
+	t.Parallel()
 	e, ctx := convEnv(), convContext()
 	for _, groups := range [][][]string{
 		{

@@ -196,6 +196,7 @@ func (x tree) swapped(r *rand.Rand, other func() tree) tree {
 
 // Contexts and terms with a mistake.
 func TestConvOfAnyInput(t *testing.T) {
+	t.Parallel()
 	r := rand.New(rand.NewSource(93))
 	counts := &convCounts{codes: map[int]int{}}
 	refused := 0

@@ -125,6 +125,7 @@ func TestConvToTheLimitOfNodes(t *testing.T) {
 
 // Where nothing is made, nothing is too great.
 func TestConvOfGreatTerms(t *testing.T) {
+	t.Parallel()
 	e, ctx := sizeConvEnv(), convContext()
 	great := func(text string) impl.Term {
 		x := paddedWith(text, 1)(1)

@@ -122,6 +122,7 @@ func TestConvWithMuchWork(t *testing.T) {
 
 // Long terms and types are soon through.
 func TestConvOfLongTerms(t *testing.T) {
+	t.Parallel()
 	e := convEnv()
 	nat := constant("Nat")
 	const count = 3000
@@ -170,6 +171,7 @@ func TestConvOfLongTerms(t *testing.T) {
 
 // A structure of many fields.
 func TestConvOfManyFields(t *testing.T) {
+	t.Parallel()
 	const count = 1500
 	d := impl.Decl{Kind: impl.KindFamily, Name: "Wide", Type: read("*1"), Ctors: []impl.Ctor{{Name: "Wide.mk", Type: telescopeOf(count, constant("Nat"), constant("Wide"))}}}
 	e := behind(convEnv(), d)

@@ -174,6 +174,7 @@ func holdConstCode(t *testing.T, e impl.Env, name string, levels []impl.Level, w
 }
 
 func TestConstTypeCodes(t *testing.T) {
+	t.Parallel()
 	e := sampleEnv()
 	broken := behind(e, quotients())
 	table := slowTable(e)

@@ -192,6 +192,7 @@ func holdTerm(t *testing.T, e impl.Env, text string, want bool) {
 }
 
 func TestEnvOkKnown(t *testing.T) {
+	t.Parallel()
 	e := sampleEnv()
 	for text, want := range map[string]bool{
 		"*0": true, "Nat": true, "[Nat.succ Nat.zero]": true, "Nat.rec{0}": true, "some": true, "two": true, "easy": true, "Eq{1}": true, "Eq.refl{0}": true,

@@ -47,6 +47,7 @@ func (m *envMaker) levelsFor(name string) []impl.Level {
 // Promise 6, as far as environments go: each front part of a valid environment
 // is valid, and what comes behind it changes nothing of what it said.
 func TestFrontPartsStay(t *testing.T) {
+	t.Parallel()
 	r := rand.New(rand.NewSource(63))
 	for i := range 60 {
 		m := randomEnv(r)
@@ -115,6 +116,7 @@ func asAxiom(d impl.Decl) impl.Decl {
 // Promise 13, as far as environments go: with an axiom for a theorem, or with
 // another proof of it, nothing is other but what hangs on axioms.
 func TestTheoremsAsAxioms(t *testing.T) {
+	t.Parallel()
 	r := rand.New(rand.NewSource(65))
 	seen := 0
 	for i := range 80 {

@@ -219,6 +219,7 @@ func (m *envMaker) spoiltEnv() impl.Env {
 }
 
 func TestEnvOfRandomDecls(t *testing.T) {
+	t.Parallel()
 	r := rand.New(rand.NewSource(61))
 	for i := range 150 {
 		m := randomEnv(r)
@@ -236,6 +237,7 @@ func TestEnvOfRandomDecls(t *testing.T) {
 }
 
 func TestEnvOfChangedDecls(t *testing.T) {
+	t.Parallel()
 	r := rand.New(rand.NewSource(62))
 	counts := map[bool]int{}
 	for i := range 1000 {

@@ -139,6 +139,7 @@ func wrongDeclTerms() []impl.Term {
 }
 
 func TestDeclOkTerms(t *testing.T) {
+	t.Parallel()
 	good := []impl.Term{
 		prop(), universe(param("u")), constant("c", param("u"), pair(impl.LevelMax, param("u"), zero())), lam("x", 2, prop(), variable(0)),
 		let("x", prop(), prop(), variable(0)), proj("P", 3, constant("c")), spread(impl.MaxNodes/2-1, prop()),

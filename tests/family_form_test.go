@@ -346,6 +346,7 @@ func spoiltDecl(r *rand.Rand, d impl.Decl) impl.Decl {
 // Families that are formed, and what comes of them by a change or two, against
 // the slow way.
 func TestFormOfChangedFamilies(t *testing.T) {
+	t.Parallel()
 	r := rand.New(rand.NewSource(51))
 	codes := map[int]int{}
 	for range 3000 {

@@ -144,6 +144,7 @@ func anyDecl(r *rand.Rand, wrong []impl.Term) impl.Decl {
 }
 
 func TestFamilyFunctionsOfAnyDecl(t *testing.T) {
+	t.Parallel()
 	r := rand.New(rand.NewSource(55))
 	wrong := wrongTerms()
 	for range 2000 {

@@ -298,6 +298,7 @@ func holdPromise(t *testing.T, d impl.Decl) {
 }
 
 func TestRecursorTypesAreTypes(t *testing.T) {
+	t.Parallel()
 	for _, d := range formedFamilies() {
 		holdPromise(t, d)
 	}

@@ -67,6 +67,7 @@ func TestAddAll(t *testing.T) {
 }
 
 func TestAddAllRefuses(t *testing.T) {
+	t.Parallel()
 	all := claimEnv().Decls
 	for _, c := range []struct {
 		d    impl.Decl

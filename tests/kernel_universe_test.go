@@ -36,6 +36,7 @@ func inSort(params, sort string, fields ...string) impl.Decl {
 }
 
 func TestUniverse(t *testing.T) {
+	t.Parallel()
 	too := impl.CodeUniverse
 	holdUniverseCases(t, claimEnv(), []universeCase{
 		// no field, and the family itself

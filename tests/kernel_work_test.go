@@ -41,6 +41,7 @@ func workInParts(t *testing.T, e impl.Env, d impl.Decl) int {
 
 // The works of all parts add up, and one fuel is for all of them.
 func TestOneFuel(t *testing.T) {
+	t.Parallel()
 	all := claimEnv().Decls
 	greatest := 0
 	for i, d := range all {

@@ -79,6 +79,7 @@ func TestLevelOrderOfSmallLevels(t *testing.T) {
 }
 
 func TestLevelOrderOfRandomLevels(t *testing.T) {
+	t.Parallel()
 	r := rand.New(rand.NewSource(4))
 	names := []string{"u", "v", "w", "x"}
 	ways := allValues(names, tellingValues)

@@ -192,6 +192,7 @@ func TestNormalOfTheSamePartOftenAgain(t *testing.T) {
 
 // Normal forms that are within each other more often than a term has nodes.
 func TestNormalVeryDeep(t *testing.T) {
+	t.Parallel()
 	e := stepEnv()
 	// each Nat.succ gives fifty more around the next one
 	deep := "#0"

@@ -211,6 +211,7 @@ func familyEnv(r *rand.Rand) impl.Env {
 }
 
 func TestStepsOfRandomTerms(t *testing.T) {
+	t.Parallel()
 	r := rand.New(rand.NewSource(71))
 	counts := &stepCounts{codes: map[int]int{}}
 	w := slowStepsIn(stepEnv())
@@ -243,6 +244,7 @@ func TestStepsOfRandomTerms(t *testing.T) {
 
 // Recursors and constructors of one family, one within the other.
 func TestStepsOfRandomRecursors(t *testing.T) {
+	t.Parallel()
 	r := rand.New(rand.NewSource(72))
 	counts := &stepCounts{codes: map[int]int{}}
 	for i := range 250 {
@@ -261,6 +263,7 @@ func TestStepsOfRandomRecursors(t *testing.T) {
 
 // Terms with a mistake, and terms of any kind.
 func TestStepsOfAnyTerm(t *testing.T) {
+	t.Parallel()
 	r := rand.New(rand.NewSource(73))
 	counts := &stepCounts{codes: map[int]int{}}
 	refused := 0

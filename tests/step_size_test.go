@@ -66,6 +66,7 @@ func paddedWith(text string, much int) func(pad int) impl.Term {
 }
 
 func TestStepsToTheLimitOfNodes(t *testing.T) {
+	t.Parallel()
 	e := behind(stepEnv(), impl.Decl{Kind: impl.KindDef, Name: "large", Type: read("Nat"), Value: sized(12001)})
 	met := map[[2]int]bool{}
 	for _, c := range []struct {
@@ -199,6 +200,7 @@ func TestStepsToOtherLimits(t *testing.T) {
 
 // A step whose term is far too great is soon refused.
 func TestStepsFarBeyondTheLimit(t *testing.T) {
+	t.Parallel()
 	const fields = 1200
 	text := "Wide"
 	for range fields {

@@ -383,6 +383,7 @@ func newTyper(e impl.Env) *typer {
 }
 
 func TestStepsKeepTypes(t *testing.T) {
+	t.Parallel()
 	e := stepEnv()
 	counts := make([]int, 8)
 	for _, text := range dependent() {

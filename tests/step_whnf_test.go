@@ -209,6 +209,7 @@ func TestWhnfWithoutEnd(t *testing.T) {
 
 // Functions of many arguments, and many TermLets, are soon through.
 func TestWhnfOfLongTerms(t *testing.T) {
+	t.Parallel()
 	const count = 2500
 	e := stepEnv()
 	body, want := constant("some"), constant("some")

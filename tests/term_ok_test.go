@@ -255,6 +255,7 @@ func TestTermOkChanged(t *testing.T) {
 }
 
 func TestTermOkNodes(t *testing.T) {
+	t.Parallel()
 	for _, c := range []struct {
 		x     impl.Term
 		nodes int

@@ -104,6 +104,7 @@ func bodyOf(x impl.Term) impl.Term {
 // Promise 3: b for variable 0 and then a for what was 1, or a for 1 first, and
 // then b with a in it for 0.
 func TestPutTwiceInEitherOrder(t *testing.T) {
+	t.Parallel()
 	hold := func(c, b, a impl.Term) {
 		t.Helper()
 		left := holdPut(t, holdPut(t, c, b), a)
@@ -255,6 +256,7 @@ func TestPutTooGreatNumbers(t *testing.T) {
 }
 
 func TestPutWrong(t *testing.T) {
+	t.Parallel()
 	for i, wrong := range wrongTerms() {
 		for _, x := range []impl.Term{variable(0), hole(0), prop(), lam("x", 0, prop(), variable(0)), projs(impl.MaxNodes-1, hole(0)), wrong} {
 			for _, pair := range [][2]impl.Term{{x, wrong}, {wrong, x}} {

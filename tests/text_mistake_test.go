@@ -182,6 +182,7 @@ func TestParseTermEveryRowOfTokens(t *testing.T) {
 }
 
 func TestParseTermChangedTexts(t *testing.T) {
+	t.Parallel()
 	r := rand.New(rand.NewSource(54))
 	words := tokensOf("[ ] ^ ! = . x a.b 0 1 2 3 #0 *0 f{u} f{} ?1 + # * ?")
 	for range 60000 {
@@ -229,6 +230,7 @@ func TestParseTermStrangeBytes(t *testing.T) {
 }
 
 func TestParseTermOfAnyBytes(t *testing.T) {
+	t.Parallel()
 	r := rand.New(rand.NewSource(55))
 	signs := []byte("[[[]]]   \n#*?^!=.{},()+'_xuamf0129\x00\t\xff")
 	for range 150000 {
@@ -291,6 +293,7 @@ func textOf(t *testing.T, x impl.Term) []byte {
 }
 
 func TestParseTermNodes(t *testing.T) {
+	t.Parallel()
 	most := impl.MaxNodes
 	holdRead(t, projsText(most-1, "?1"), projs(most-1, hole(1)))
 	holdRead(t, projsText(1, spreadText(most/2-1, "c")), projs(1, spread(most/2-1, constant("c"))))

@@ -214,6 +214,7 @@ func TestParseTermLevelLists(t *testing.T) {
 }
 
 func TestParseTermGivesValidTerms(t *testing.T) {
+	t.Parallel()
 	r := rand.New(rand.NewSource(53))
 	words := append(tokensOf("[ [ [ ] ] ] ^ ! = . x y a.b 0 1 2 3 #0 #1 *u *1 f{u} f{0,max(u,v)} ?2 ?3"), "\n")
 	good := 0

@@ -115,6 +115,7 @@ func TestTermTextLengthByForms(t *testing.T) {
 
 // A text of all this would have more than 100 times MaxText bytes.
 func TestTermTextFarTooLong(t *testing.T) {
+	t.Parallel()
 	name := func(i int) string { return strings.Repeat(string(rune('a'+i)), impl.MaxName) }
 	wide := chain(impl.LevelMax, name(0), name(1), name(2), name(3), name(4), name(5))
 	for len(wide.Nodes) < impl.MaxLevel-2 {

@@ -78,6 +78,7 @@ func TestCtxOk(t *testing.T) {
 }
 
 func TestCtxOkOfManyTypes(t *testing.T) {
+	t.Parallel()
 	e := typeEnv()
 	var ctx []impl.Term
 	for i := range impl.MaxCtx + 3 {

@@ -63,6 +63,7 @@ func TestTypeAnswersAreNewMemory(t *testing.T) {
 }
 
 func TestTypeAnswersStandAlone(t *testing.T) {
+	t.Parallel()
 	e, ctx := typeEnv(), plainContext()
 	for _, text := range memoryTerms() {
 		x := read(text)
@@ -83,6 +84,7 @@ func TestTypeAnswersStandAlone(t *testing.T) {
 }
 
 func TestTypeArgumentsStay(t *testing.T) {
+	t.Parallel()
 	r := rand.New(rand.NewSource(84))
 	e := typeEnv()
 	before := copyEnv(e)

@@ -84,6 +84,7 @@ func holdTypesAgainstSlow(t *testing.T, what string, w *slowSteps, ctx []impl.Te
 }
 
 func TestTypesOfRandomTerms(t *testing.T) {
+	t.Parallel()
 	r := rand.New(rand.NewSource(81))
 	codes := map[int]int{}
 	for i := range 120 {
@@ -117,6 +118,7 @@ func TestTypesOfRandomTerms(t *testing.T) {
 
 // Contexts and terms with a mistake.
 func TestTypesOfAnyInput(t *testing.T) {
+	t.Parallel()
 	r := rand.New(rand.NewSource(82))
 	codes := map[int]int{}
 	refused := 0
@@ -234,6 +236,7 @@ func holdSameType(t *testing.T, f *typer, ctx []impl.Term, x impl.Term) bool {
 }
 
 func TestTypesByTheRules(t *testing.T) {
+	t.Parallel()
 	r := rand.New(rand.NewSource(83))
 	e := stepEnv()
 	counts, lost := make([]int, 10), 0

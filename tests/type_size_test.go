@@ -83,6 +83,7 @@ func holdTypeLimit(t *testing.T, what string, w *slowSteps, ctx []impl.Term, mak
 }
 
 func TestTypesToTheLimitOfNodes(t *testing.T) {
+	t.Parallel()
 	w := slowStepsIn(sizeEnv())
 	ctx := plainContext()
 	for _, texts := range [][]string{

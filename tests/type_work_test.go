@@ -108,6 +108,7 @@ func TestTypesWithMuchWork(t *testing.T) {
 
 // Long spines and telescopes, and TermLets within each other, are soon through.
 func TestTypesOfLongTerms(t *testing.T) {
+	t.Parallel()
 	const count = 3000
 	nat := constant("Nat")
 	inner := spread(0, constant("c"))
