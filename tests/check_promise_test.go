@@ -8,66 +8,6 @@ import (
 	"loop.example/g00005/impl"
 )
 
-// canonAt makes a tree canonical at a type, with the words of the chapter on
-// canonical forms.
-func (w *slowMeter) canonAt(ctx []tree, x, typ tree) tree {
-	w.count()
-	typ = w.whnf(typ, true)
-	switch {
-	case typ.node.K == impl.TermPi:
-		a := w.canonType(ctx, typ.kids[0])
-		return tree{impl.Node{K: impl.TermLam, S: "x"}, []tree{a, w.canonAt(underOne(ctx, typ.kids[0]), w.applied(x), typ.kids[1])}}
-	case typ.node.K == impl.TermSort:
-		return w.canonType(ctx, x)
-	case w.irrelevant(ctx, typ):
-		return treeOf(hole(0))
-	}
-	d, ok := w.structure(typ)
-	if !ok {
-		return w.canonSpine(ctx, w.whnf(x, true))
-	}
-	head, args := typ.spine()
-	y := w.canonSpine(ctx, apply(treeOf(constant(d.Ctors[0].Name, head.node.Levels...)), args))
-	for i := range slowFields(d, 0) {
-		field := tree{impl.Node{K: impl.TermProj, S: d.Name, N: i}, []tree{x}}
-		y = apply(y, []tree{w.canonAt(ctx, field, w.fieldType(typ, i, x))})
-	}
-	return w.fits(y)
-}
-
-func (w *slowMeter) canonType(ctx []tree, x tree) tree {
-	w.count()
-	x = w.whnf(x, true)
-	switch x.node.K {
-	case impl.TermSort:
-		return x
-	case impl.TermPi:
-		a := w.canonType(ctx, x.kids[0])
-		return tree{impl.Node{K: impl.TermPi, S: "x"}, []tree{a, w.canonType(underOne(ctx, x.kids[0]), x.kids[1])}}
-	}
-	return w.canonSpine(ctx, x)
-}
-
-func (w *slowMeter) canonSpine(ctx []tree, x tree) tree {
-	head, args := x.spine()
-	y := head
-	if head.node.K == impl.TermProj {
-		y = tree{head.node, []tree{w.canonSpine(ctx, head.kids[0])}}
-	}
-	if len(args) == 0 {
-		return y
-	}
-	typ := w.typeOf(ctx, head)
-	for _, arg := range args {
-		if typ = w.whnf(typ, true); typ.node.K != impl.TermPi {
-			panic(slowEnd{impl.CodeFun})
-		}
-		y = apply(y, []tree{w.canonAt(ctx, arg, typ.kids[0])})
-		typ = w.fits(typ.kids[1].put(arg))
-	}
-	return w.fits(y)
-}
-
 // secondly asks a second checker, which compares canonical forms.
 func (q checkAsk) secondly(w *slowSteps) checkAnswer {
 	c := &slowChecker{params: q.params}
