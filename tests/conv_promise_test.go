@@ -215,12 +215,10 @@ func TestConvIsAnEquivalence(t *testing.T) {
 	}
 }
 
-// Terms in a context, those of a row being of one type; what stands together in
-// a group is the same, and the groups are not.
-func TestConvOfGroups(t *testing.T) {
-	t.Parallel()
-	e, ctx := convEnv(), convContext()
-	for _, groups := range [][][]string{
+// convGroups are terms in convContext, those of a row being of one type; what
+// stands together in a group is the same, and the groups are not.
+func convGroups() [][][]string {
+	return [][][]string{
 		{
 			{"#11", "[[add #11] Nat.zero]", "[[id{1} Nat] #11]", "[[first #11] two]", "[. Prod 0 [[[[Prod.mk{0,0} Nat] Nat] #11] #10]]", "[= x Nat two #12]"},
 			{"#10", "[[second two] #10]"},
@@ -258,7 +256,13 @@ func TestConvOfGroups(t *testing.T) {
 			{"#0"},
 		},
 		{{"*u", "*imax(1,u)", "*max(u,u)"}, {"*v"}, {"*u+1", "*max(u+1,u)"}, {"*imax(u,v)"}, {"*max(u,v)", "*max(v,u)"}},
-	} {
+	}
+}
+
+func TestConvOfGroups(t *testing.T) {
+	t.Parallel()
+	e, ctx := convEnv(), convContext()
+	for _, groups := range convGroups() {
 		var list []impl.Term
 		var group []int
 		for i, texts := range groups {
