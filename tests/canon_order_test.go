@@ -90,7 +90,7 @@ func TestCanonPutsWhatWas(t *testing.T) {
 
 // Where several codes might come, the first one that is met does.
 func TestCanonWithSeveralCodes(t *testing.T) {
-	e, ctx := sizeConvEnv(), convContext()
+	e, ctx := canonSizeEnv(), convContext()
 	large := sized(10001)
 	grows := app(lam("x", 0, prop(), app(variable(0), variable(0))), large)
 	typed := func(typ impl.Term) impl.Term { return app(constant("any", zero()), typ) }
@@ -136,6 +136,8 @@ func TestCanonWithSeveralCodes(t *testing.T) {
 		{askCanonType, app(constant("some"), grows), 1, impl.CodeFun},
 		{askCanonType, app(constant("Nat.succ"), grows, none), 3, impl.CodeSize},
 		{askCanonType, app(constant("Nat.succ"), nat, grows), 2, impl.CodeFun},
+		// an argument is there ahead of the next one: too great with what is in front
+		{askCanonType, app(constant("tri"), lam("z", 0, sized(impl.MaxNodes-10), nat), app(constant("of"), variable(9)), hole(0)), 7, impl.CodeSize},
 		// the kid of a projection, then the type of the projection, then the arguments
 		{askCanonType, app(proj("Box", 0, none), grows), 1, impl.CodeHole},
 		{askCanonType, app(proj("Box", 0, app(constant("Nat.succ"), none)), grows), 2, impl.CodeHole},
