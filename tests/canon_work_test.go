@@ -79,6 +79,23 @@ func TestCanonOfTheSamePartManyTimes(t *testing.T) {
 			1 + (1 + 3 + 6) + (1 + 4 + 7), 0,
 		},
 	})
+	// a closed term at types of one text, which hang on their scopes
+	e = behind(e,
+		declared(impl.KindAxiom, "pick", "", "[! A 0 *1 [! a 0 #0 *1]]", ""),
+		declared(impl.KindAxiom, "taken", "", "[! f 0 [! g 0 Fun Nat] [! h 0 [! g 0 [! n 0 Nat Nat] Nat] *1]]", ""),
+		declared(impl.KindAxiom, "given", "", "[! h 0 [! g 0 [! n 0 Nat Nat] Nat] [! f 0 [! g 0 Fun Nat] *1]]", ""),
+	)
+	function := "[^ x 0 [! x 0 Nat Nat] [of [^ x 0 Nat [#1 #0]]]]"
+	holdCanonCases(t, askCanonType, e, ctx, []typeCase{
+		{
+			"[! x 0 [! A 0 *0 [[pick #0] two]] [! A 0 *1 [[pick #0] two]]]",
+			"[! x 0 [! x 0 *0 [[pick #0] ?0]] [! x 0 *1 [[pick #0] [Nat.succ [Nat.succ Nat.zero]]]]]",
+			1 + (2 + 1 + 2 + 1) + (2 + 1 + 2 + 4), 0,
+		},
+		// a closed function, whose variable has a type that takes a step, or none
+		{"[[taken of] of]", "[[taken " + function + "] " + function + "]", 1 + (9 + 1 + 1) + 9, 0},
+		{"[[given of] of]", "[[given " + function + "] " + function + "]", 1 + 9 + (9 + 1 + 1), 0},
+	})
 	// the same body in a function and by itself
 	holdCanonCases(t, askCanon, e, ctx, []typeCase{
 		{"[[[[Prod.mk{0,0} Nat] Fun] [#9 two]] [^ n 0 Nat [#10 two]]]", "[[[[Prod.mk{0,0} Nat] [! x 0 Nat Nat]] [#9 [Nat.succ [Nat.succ Nat.zero]]]] [^ x 0 Nat [#10 [Nat.succ [Nat.succ Nat.zero]]]]]", 24, 0},
