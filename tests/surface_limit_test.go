@@ -269,7 +269,7 @@ func holdLastToken(t *testing.T) {
 			t.Fatal("no term is as long as is wanted")
 		}
 	}
-	for _, more := range []int{-1, 0, 1, 5} {
+	for _, more := range []int{-3, -2, -1, 0, 1, 5} {
 		x := surfKind(impl.FormApp, front, surfName(strings.Repeat("y", left+more)))
 		text, ok := impl.Print(x.tree())
 		want := slowPrint(x)
@@ -278,6 +278,11 @@ func holdLastToken(t *testing.T) {
 		}
 		if ok {
 			holdReadAgain(t, x.tree())
+		}
+		// One token more, which begins where all bytes may be used up.
+		y := surfKind(impl.FormApp, x, surfName("z"))
+		if text, ok := impl.Print(y.tree()); ok != (more <= -2) || len(text) != 0 && !ok || ok && string(text) != slowPrint(y) {
+			t.Errorf("%v of %d bytes", ok, len(slowPrint(y)))
 		}
 	}
 }
