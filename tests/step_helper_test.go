@@ -206,6 +206,8 @@ type slowMeter struct {
 	work  int
 	exact bool
 	most  int
+	// holeType is there where holes have types.
+	holeType func(hole int) tree
 }
 
 // slowEnd is what the slow way panics with when a code ends it.

@@ -76,6 +76,9 @@ func (w *slowMeter) typeOf(ctx []tree, x tree) tree {
 		}
 		return w.fieldType(typ, x.node.N, x.kids[0])
 	}
+	if w.holeType != nil {
+		return w.holeType(x.node.N)
+	}
 	panic(slowEnd{impl.CodeHole})
 }
 
