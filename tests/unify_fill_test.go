@@ -128,6 +128,11 @@ func TestFillSize(t *testing.T) {
 	holdFill(t, s, app(hole(1), hole(0), constant("e")), "d", 0)
 	s.Holes[1].Value = lam("x", 0, constant("c"), lam("y", 0, app(variable(0), variable(0)), variable(1)))
 	holdFill(t, s, app(hole(1), hole(0), constant("e")), "", impl.CodeSize)
+	s.Holes[1].Value = lam("x", 0, constant("c"), app(constant("d"), variable(0)))
+	full := projs(impl.MaxNodes-3, constant("e"))
+	holdFill(t, s, app(hole(1), full), written(app(constant("d"), full)), 0)
+	s.Holes[1].Value = lam("x", 0, constant("c"), app(constant("d"), app(constant("d"), variable(0))))
+	holdFill(t, s, app(hole(1), full), "", impl.CodeSize)
 	// variables that would have too great a number
 	s = stateOf("Nat := [^ x 0 Nat [^ y 0 Nat #1]]")
 	top := variable(impl.MaxNodes)

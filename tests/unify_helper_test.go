@@ -678,6 +678,9 @@ func unifyEnv() impl.Env {
 		declared(impl.KindAxiom, "f", "", "[! a 0 Nat [! b 0 Nat Nat]]", ""),
 		declared(impl.KindAxiom, "poly", "u v", "[! A 0 *u [! B 0 *v Nat]]", ""),
 		declared(impl.KindAxiom, "rel", "", "[! a 0 Nat [! b 0 Nat *0]]", ""),
+		declared(impl.KindDef, "none", "", "[! a 0 Nat [! b 0 Nat Nat]]", "[^ a 0 Nat [^ b 0 Nat Nat.zero]]"),
+		declared(impl.KindDef, "none_at", "u", "[! A 0 *u [! a 0 Nat Nat]]", "[^ A 0 *u [^ a 0 Nat Nat.zero]]"),
+		declared(impl.KindDef, "swap", "", "[! a 0 Nat [! b 0 Nat Nat]]", "[^ a 0 Nat [^ b 0 Nat [[f #0] #1]]]"),
 	)
 }
 

@@ -79,7 +79,7 @@ func (m *unifyMaker) number(uses []string, depth int) string {
 	if depth <= 0 {
 		return m.one([]string{"#4", "#4", "#3", "two", "deuce", "one", "uno", "three", "four", "Nat.zero", "[. Prod 0 #1]", "some"})
 	}
-	heads := []string{"[Nat.succ @]", "[[add @] @]", "[[f @] @]", "[double @]", "[[const @] @]", "[#2 @]", "[[id{1} Nat] @]", "[[id{_0} Nat] @]", "[[same{_1} Nat] @]",
+	heads := []string{"[Nat.succ @]", "[[add @] @]", "[[f @] @]", "[double @]", "[[const @] @]", "[[none @] @]", "[[swap @] @]", "[[none_at{_1} Nat] @]", "[#2 @]", "[[id{1} Nat] @]", "[[id{_0} Nat] @]", "[[same{_1} Nat] @]",
 		"[[[[Nat.rec{1} [^ t 0 Nat Nat]] @] " + addStep + "] @]", "[[^ x 0 Nat [[add #0] #0]] @]", "[= x Nat @ [[f #0] #0]]", "[[[id{_2} Fun] Nat.succ] @]",
 		"[. Prod 0 [[[[Prod.mk{0,0} Nat] Nat] @] @]]", "[[poly{_0,_1} Nat] Nat]", "[[poly{_2,1} Nat] [! x 0 Nat [[Vec{1} Nat] #0]]]", "[of [^ x 0 Nat [[f #0] @^]]]", "[of #2]", "[of Nat.succ]"}
 	text := m.one(append(heads, uses...))

@@ -132,3 +132,41 @@ func TestUnifyPutsOffTooMany(t *testing.T) {
 	// two pairs for one, and its two arguments
 	unifyAsk{s: s}.hold(t, e, impl.MaxFuel, impl.State{}, impl.MaxHoles+2, impl.CodeSize)
 }
+
+// A try that fails takes back what it has set and put off.
+func TestUnifyTakesBack(t *testing.T) {
+	holdUnifyCases(t, unifyEnv(), unifyContext(), []unifyCase{
+		{"[[none ?0] two]", "[[none one] three]", texts("Nat"), texts("Nat"), 16, 0},
+		{"[[none two] ?0]", "[[none two] one]", texts("Nat"), texts("Nat := one"), 4, 0},
+		{"[[none [?0 two]] two]", "[[none one] three]", texts("Fun"), texts("Fun"), 15, 0},
+		{"[[none [?0 two]] two]", "[[none one] three]", texts("Fun", "two = three"), texts("Fun", "two = three"), 15, 0},
+		{"[[none_at{_0} Nat] two]", "[[none_at{2} Nat] three]", texts("_"), texts("_"), 15, 0},
+		{"[[none_at{max(_0,1)} Nat] two]", "[[none_at{2} Nat] three]", texts("_"), texts("_"), 15, 0},
+		{"[[swap ?0] two]", "[[swap one] three]", texts("Nat"), nil, 23, impl.CodeUnify},
+		{"[[f [[none ?0] two]] ?0]", "[[f [[none one] three]] four]", texts("Nat"), texts("Nat := four"), 19, 0},
+		{"[[f ?0] [[none ?1] two]]", "[[f one] [[none ?0] three]]", texts("Nat", "Nat"), texts("Nat := one", "Nat"), 19, 0},
+	})
+}
+
+// What was found of types, and what was compared, is found anew when more is
+// known: all terms of ?0 are one only once _0 is 0.
+func TestUnifyForgets(t *testing.T) {
+	e := unifyEnv()
+	w := slowStepsIn(e)
+	for _, c := range []struct {
+		a, b  string
+		after []string
+		work  int
+		code  int
+	}{
+		{"[[[some #0] *_0] #0]", "[[[some [[^ x 0 Nat #1] two]] *0] #1]", texts("*_0", "_ := 0"), 7, 0},
+		{"[[[some #0] *_0] #0]", "[[[some [[^ x 0 Nat #1] two]] *1] #1]", nil, 7, impl.CodeUnify},
+		{"[[swap #0] *_0]", "[[swap #1] *0]", texts("*_0", "_ := 0"), 12, 0},
+		{"[[swap #0] *_0]", "[[swap #1] *1]", nil, 12, impl.CodeUnify},
+		{"[[swap [[none_at{_0} Nat] #0]] *_0]", "[[swap [[none_at{0} Nat] #1]] *1]", texts("*_0", "_ := 1"), 22, 0},
+		{"[[[some [[none_at{_0} Nat] [[f #0] two]]] *1] #0]", "[[[some [[none_at{0} Nat] [[f #1] one]]] *_0] #1]", nil, 15, impl.CodeUnify},
+	} {
+		s := stateOf("*_0", "_")
+		unifyAsk{s, contextOf("?0", "?0"), read(c.a), read(c.b)}.holdEvery(t, w, stateOf(c.after...), c.work, c.code)
+	}
+}

@@ -43,6 +43,10 @@ func TestUnifySize(t *testing.T) {
 	} {
 		unifyAsk{s, contextOf(c.ctx...), read(c.a), read(c.b)}.hold(t, e, 100, impl.State{}, c.work, impl.CodeSize)
 	}
+	// the type of the hole
+	s.Holes[2].Type = read("[! n 0 Nat [[Vec{1} Nat] [Nat.succ ?0]]]")
+	unifyAsk{s, contextOf("Nat"), read("[?2 #0]"), read("two")}.hold(t, e, 100, impl.State{}, 1, impl.CodeSize)
+	s.Holes[2].Type = read("Fun")
 	// ?0 as it is, and with the TermLams of its type around
 	want := copyState(s)
 	want.Holes[1].Value = great
@@ -134,4 +138,20 @@ func TestUnifyManyHoles(t *testing.T) {
 	unifyAsk{s, ctx, a, b}.hold(t, e, impl.MaxFuel, want, 1+2*impl.MaxHoles, 0)
 	last := len(ctx) - 1
 	unifyAsk{s, ctx, app(a, read("[. Prod 0 #0]")), app(b, read("#"+strconv.Itoa(last)))}.hold(t, e, impl.MaxFuel, impl.State{}, 2*impl.MaxHoles+3, impl.CodeUnify)
+}
+
+// Levels that were small enough until another one was set.
+func TestUnifySizeOfLevels(t *testing.T) {
+	e := unifyEnv()
+	s := stateOf("_")
+	for _, c := range []struct{ a, b string }{
+		{"[[poly{_0,_0+1} Nat] Nat]", "[[poly{63,1} Nat] Nat]"},
+		{"[[poly{63,1} Nat] Nat]", "[[poly{_0,_0+1} Nat] Nat]"},
+	} {
+		unifyAsk{s, nil, read(c.a), read(c.b)}.hold(t, e, 100, impl.State{}, 1, impl.CodeSize)
+	}
+	for range impl.MaxHoles {
+		s.Later = append(s.Later, impl.Pair{A: read("two"), B: read("two")})
+	}
+	unifyAsk{s, nil, read("[[poly{max(_0,1),1} Nat] Nat]"), read("[[poly{2,1} Nat] Nat]")}.hold(t, e, 100, impl.State{}, 1, impl.CodeSize)
 }

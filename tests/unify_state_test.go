@@ -59,7 +59,7 @@ func TestStateOk(t *testing.T) {
 	for _, list := range [][]string{
 		texts("#0"), texts("Nat := #0"), texts("Nat", "Nat := [^ x 0 Nat #1]"), texts("Nat := Nut"), texts("nat"), texts("[id Nat]"),
 		texts("[id{1,2} Nat]"), texts("[. Prod 2 two]"), texts("[. Nat 0 two]"),
-		texts("?1"), texts("Nat := ?1"), texts("Nat", "[f ?2]"), texts("?1000000"), texts("Nat := [f ?1000000]"),
+		texts("?1"), texts("Nat := ?1"), texts("Nat", "[f ?2]"), texts("?5", "Nat"), texts("Nat := ?5", "Nat", "two = two"), texts("Nat", "?5 = two", "two = two"), texts("?1000000"), texts("Nat := [f ?1000000]"),
 		texts("*_0"), texts("*_1", "_"), texts("Nat := [id{_0} Nat]"), texts("*max(u,_10)", "_"), texts("*_99999999999999999999999999999999999999", "_"),
 		texts("_ := _1"), texts("_ := max(1,_1)"), texts("_ := _7"), texts("_ := _18446744073709551616", "_"),
 		texts("?0 = two"), texts("Nat", "two = ?1"), texts("*_0 = *1"), texts("*1 = *_1", "_"),

@@ -101,6 +101,7 @@ func TestUnifyFlexible(t *testing.T) {
 		{"[?0 #4]", "[?0 two]", texts("Fun"), texts("Fun", "|- [?0 #4] = [?0 two]"), 1, 0},
 		{"[[?0 #4] #4]", "two", texts("Op"), texts("Op", "|- [[?0 #4] #4] = two"), 1, 0},
 		{"two", "[[?0 #4] #4]", texts("Op"), texts("Op", "|- two = [[?0 #4] #4]"), 1, 0},
+		{"[[[?0 #4] #3] #4]", "two", texts("[! a 0 Nat Op]"), texts("[! a 0 Nat Op]", "|- [[[?0 #4] #3] #4] = two"), 1, 0},
 		{"[?0 two]", "three", texts("Fun"), texts("Fun", "|- [?0 two] = three"), 1, 0},
 		{"[?0 two]", "[?1 #4]", texts("Fun", "Fun"), texts("Fun", "Fun := [^ n 2 Nat [?0 two]]"), 6, 0},
 		{"[?0 two]", "[?1 two]", texts("Fun", "Fun"), texts("Fun", "Fun", "|- [?0 two] = [?1 two]"), 1, 0},

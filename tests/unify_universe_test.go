@@ -76,6 +76,8 @@ func TestUniverses(t *testing.T) {
 		{texts("_", "*max(_0,u) = *u", "*_0 = *1"), nil, impl.CodeUnify},
 		{texts("_", "*max(_0,u)+1 = *u+1"), texts("_ := 0"), 0},
 		{texts("_", "*_0 = *u"), nil, impl.CodeUnify},
+		{texts("_", "*imax(u+1,_0) = *_0"), texts("_ := 0"), 0},
+		{texts("_", "*_0 = *imax(u+1,_0)"), texts("_ := 0"), 0},
 		{texts("_", "_", "*_0 = *max(_0,0)", "*_1 = *imax(u,_1)"), texts("_ := 0", "_ := 0"), 0},
 		{texts("*u = *u", "*max(u,v) = *max(v,u)"), nil, 0}, {texts("*u = *v"), nil, impl.CodeUnify},
 		{texts("_", "*_00 = *_00"), texts("_ := 0"), 0}, {texts("_", "*_0 = *_00"), nil, impl.CodeUnify},
@@ -177,7 +179,9 @@ func TestUniversesSize(t *testing.T) {
 	holdUniverses(t, stateOf("_", "_", "*_0 = *60", "*_1 = *_0+4"), impl.State{}, impl.CodeSize)
 	// a level that becomes too great
 	holdUniverses(t, stateOf("_", "_", "*_0 = *40", "*_1 = *40", "*max(_0,_1) = *max(_1,3)"), impl.State{}, impl.CodeSize)
+	holdUniverses(t, stateOf("_", "_", "*_0 = *40", "*_1 = *40", "*max(_1,3) = *max(_0,_1)"), impl.State{}, impl.CodeSize)
 	holdUniverses(t, stateOf("_ := _1+40", "_", "*_0+30 = *1"), impl.State{}, impl.CodeSize)
+	holdUniverses(t, stateOf("_ := _1+40", "_", "*1 = *_0+30"), impl.State{}, impl.CodeSize)
 	// too great, ahead of what nothing meets
 	holdUniverses(t, numbered(1, slices.Repeat(texts("*_0 = *_0+1"), impl.MaxCons)...), impl.State{}, impl.CodeSize)
 }
